@@ -916,19 +916,22 @@ func TestPathsShareNoMemory(t *testing.T) {
 	}
 }
 
+// wordsWithRoom returns a copy of a list whose words lie behind each other in one memory, as does the list itself with more behind it, and both of these memories.
+func wordsWithRoom(l [][]int) ([][]int, [][]int, []int) {
+	letters := append(slices.Concat(l...), 77, 77, 77)
+	memory := slices.Repeat([][]int{letters}, len(l)+2)
+	at := 0
+	for i, w := range l {
+		memory[i] = letters[at : at+len(w)]
+		at += len(w)
+	}
+	return memory[:len(l)], memory, letters
+}
+
 func TestWordListsShareNoMemory(t *testing.T) {
 	for _, original := range append(differentLists(), limitLists()...) {
-		// All words lie behind each other in one memory, as does the list itself with more behind it.
-		letters := append(slices.Concat(original...), 77, 77, 77)
-		memory := slices.Repeat([][]int{letters}, len(original)+2)
-		at := 0
-		for i, w := range original {
-			memory[i] = letters[at : at+len(w)]
-			at += len(w)
-		}
-		wantLetters := slices.Clone(letters)
-		wantMemory := slices.Clone(memory)
-		l := memory[:len(original)]
+		l, memory, letters := wordsWithRoom(original)
+		wantMemory, wantLetters := slices.Clone(memory), slices.Clone(letters)
 		for range 2 {
 			got, ok := impl.FlowerOf(3, l)
 			want, wantOk := wantFlower(3, original)
